@@ -237,9 +237,10 @@ func TestNodesAreDescendants(t *testing.T) {
 	}
 }
 
-// descends reports whether v is w or one of its descendants.
+// descends reports whether v is w or one of its descendants, where each parent
+// comes before its children.
 func descends(infos []hedge.Info, v, w int) bool {
-	for v >= 0 && v != w {
+	for v > w && infos[v].Parent < v {
 		v = infos[v].Parent
 	}
 	return v == w

@@ -67,6 +67,30 @@ func TestAllNumbers(t *testing.T) {
 	}
 }
 
+// P1.5: numbers of trees close to the limit of 4096.
+func TestAllLimit(t *testing.T) {
+	tests := []struct {
+		ranks     []int
+		n, number int
+	}{
+		{[]int{0, 0, 1, 1, 1, 3, 3, 3, 3, 3}, 6, 4086},
+		{[]int{0, 1, 1, 1, 1}, 7, 4096},
+		{[]int{0, 0, 1, 2, 2, 2, 2, 2, 3, 3, 3, 3}, 6, 4122},
+		{[]int{0, 1, 1, 1, 1, 1, 3, 3, 3, 3}, 6, 4125},
+	}
+	for _, test := range tests {
+		a := api.Alphabet{Ranks: test.ranks}
+		got, e := tree.All(a, test.n)
+		if test.number > 4096 {
+			if e != api.ErrFull || len(got) != 0 {
+				t.Errorf("%d trees: %d trees, error %d", test.number, len(got), e)
+			}
+		} else if e != api.OK || len(got) != test.number || !sameLists(got, everyOver(a, test.n)) {
+			t.Errorf("%d trees: %d trees, error %d", test.number, len(got), e)
+		}
+	}
+}
+
 // P1.5: large alphabets take no time to be refused, or to have no tree.
 func TestAllLargeAlphabets(t *testing.T) {
 	mixed := api.Alphabet{Ranks: []int{0, 0, 0, 1, 1, 1, 2, 2, 2, 3, 3, 3}}
