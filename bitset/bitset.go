@@ -48,6 +48,16 @@ func (s *Set) Meets(other *Set) bool {
 	return false
 }
 
+// Within reports whether all states of s are in other.
+func (s *Set) Within(other *Set) bool {
+	for i, word := range other {
+		if s[i]&^word != 0 {
+			return false
+		}
+	}
+	return true
+}
+
 // List returns the states of s in increasing order.
 func (s *Set) List() []int {
 	var list []int

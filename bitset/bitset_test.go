@@ -25,6 +25,10 @@ func TestSet(t *testing.T) {
 			if set.Meets(&second) != meets {
 				t.Errorf("%v meets %v", list, other)
 			}
+			within := !slices.ContainsFunc(list, func(state int) bool { return !slices.Contains(other, state) })
+			if set.Within(&second) != within {
+				t.Errorf("%v within %v", list, other)
+			}
 			second.Unite(&set)
 			union := slices.Concat(list, other)
 			slices.Sort(union)

@@ -33,7 +33,7 @@ func TestDetAndComplement(t *testing.T) {
 
 // P4.1, P4.3: the chapter's example.
 func TestDetExample(t *testing.T) {
-	checkBoth(t, withBAlphabet, withB(), randomTrees(withBAlphabet, 50, 60))
+	checkBoth(t, withBAlphabet, withB(), sample.RandomTrees(withBAlphabet, 50, 60))
 }
 
 // over is an automaton with its alphabet.
@@ -45,13 +45,13 @@ type over struct {
 // largest returns automata with so many states that all sets of them, and one
 // more, still fit into an automaton.
 func largest() []over {
-	threes := allSets(4)
+	threes := sample.AllSets(4)
 	for sym := 5; sym < 9; sym++ {
 		threes = union(threes, sym, 3)
 	}
 	return []over{
-		{api.Alphabet{Ranks: []int{0, 1, 1, 1, 1}}, allSets(8)},
-		{api.Alphabet{Ranks: []int{0, 1, 1, 1, 1, 2}}, union(allSets(7), 5, 2)},
+		{api.Alphabet{Ranks: []int{0, 1, 1, 1, 1}}, sample.AllSets(8)},
+		{api.Alphabet{Ranks: []int{0, 1, 1, 1, 1, 2}}, union(sample.AllSets(7), 5, 2)},
 		{api.Alphabet{Ranks: []int{0, 1, 1, 1, 1, 3, 3, 3, 3}}, threes},
 	}
 }
@@ -59,15 +59,15 @@ func largest() []over {
 // P4.1, P4.3: no ErrFull as long as all sets fit.
 func TestDetAndComplementAtTheLimit(t *testing.T) {
 	for _, x := range largest() {
-		checkBoth(t, x.al, x.a, randomTrees(x.al, 40, 30))
+		checkBoth(t, x.al, x.a, sample.RandomTrees(x.al, 40, 30))
 	}
 }
 
 // P4.1, P4.3: only useful states count.
 func TestDetAndComplementWithUselessStates(t *testing.T) {
 	al := api.Alphabet{Ranks: []int{0, 1, 1, 1, 1, 0, 1}}
-	trees := randomTrees(al, 200, 12)
-	a := allSets(280)
+	trees := sample.RandomTrees(al, 200, 12)
+	a := sample.AllSets(280)
 	a.States = 300
 	a.Rules = append(a.Rules,
 		sample.Rule(5, 290), sample.Rule(5, 291), sample.Rule(6, 290, 290), sample.Rule(6, 292, 291), sample.Rule(6, 292, 290),
@@ -82,9 +82,9 @@ func TestDetAndComplementWithUselessStates(t *testing.T) {
 // P4.1, P4.3: beyond the limit, a result is either right or ErrFull.
 func TestDetAndComplementBeyondTheLimit(t *testing.T) {
 	al := api.Alphabet{Ranks: []int{0, 1, 1, 1, 1, 2}}
-	trees := randomTrees(al, 20, 20)
+	trees := sample.RandomTrees(al, 20, 20)
 	for _, states := range []int{8, 9, 20, 300} {
-		a := allSets(states)
+		a := sample.AllSets(states)
 		if states < 20 {
 			a = union(a, 5, 2)
 		}
@@ -108,7 +108,7 @@ func TestDetAndComplementBeyondTheLimit(t *testing.T) {
 // P4.1: deterministic automata are never too large.
 func TestDetOfDeterministic(t *testing.T) {
 	chains := api.Alphabet{Ranks: []int{0, 1}}
-	b, e := deter.Det(chains, cycle(300))
+	b, e := deter.Det(chains, sample.Counter(300))
 	checkDeterministic(t, "300 states", chains, b, e)
 	for n := 1; n <= 300; n++ {
 		x := sample.Chain(n, 1, 0)
@@ -117,35 +117,16 @@ func TestDetOfDeterministic(t *testing.T) {
 		}
 	}
 	al := api.Alphabet{Ranks: []int{0, 2, 0}}
-	a := full(al, 141)
+	a := sample.Full(al, 141)
 	b, e = deter.Det(al, a)
 	checkDeterministic(t, "many rules", al, b, e)
-	checkLanguage(t, "Det", randomTrees(al, 20, 20), a, b, true)
-}
-
-// full returns a deterministic and complete automaton whose states are all
-// reachable.
-func full(al api.Alphabet, states int) api.Automaton {
-	a := api.Automaton{States: states}
-	for state := 0; state < states; state += 3 {
-		a.Final = append(a.Final, state)
-	}
-	for sym, rank := range al.Ranks {
-		for _, from := range sample.Lists(rank, states) {
-			to := sym
-			for i, state := range from {
-				to += (i + 1) * (state + 1)
-			}
-			a.Rules = append(a.Rules, sample.Rule(sym, to%states, from...))
-		}
-	}
-	return a
+	checkLanguage(t, "Det", sample.RandomTrees(al, 20, 20), a, b, true)
 }
 
 // P4.3: deterministic automata whose number of states plus 1 fits.
 func TestComplementOfDeterministic(t *testing.T) {
 	chains := api.Alphabet{Ranks: []int{0, 1}}
-	c, e := deter.Complement(chains, cycle(299))
+	c, e := deter.Complement(chains, sample.Counter(299))
 	checkDeterministic(t, "299 states", chains, c, e)
 	checkComplete(t, "299 states", chains, c)
 	for n := 1; n <= 300; n++ {
@@ -155,14 +136,14 @@ func TestComplementOfDeterministic(t *testing.T) {
 	}
 	for _, states := range []int{1, 2, 139, 140} {
 		al := api.Alphabet{Ranks: []int{0, 2, 0}}
-		a := full(al, states)
+		a := sample.Full(al, states)
 		c, e := deter.Complement(al, a)
 		checkDeterministic(t, "many rules", al, c, e)
 		checkComplete(t, "many rules", al, c)
-		checkLanguage(t, "Complement", randomTrees(al, 20, 20), a, c, false)
+		checkLanguage(t, "Complement", sample.RandomTrees(al, 20, 20), a, c, false)
 	}
 	twos := api.Alphabet{Ranks: []int{2, 2}}
-	a := full(twos, 99)
+	a := sample.Full(twos, 99)
 	a.Rules = a.Rules[1:]
 	c, e = deter.Complement(twos, a)
 	checkDeterministic(t, "20000 rules", twos, c, e)
@@ -172,7 +153,7 @@ func TestComplementOfDeterministic(t *testing.T) {
 // P4.3: beyond the limit, a result is either right or ErrFull.
 func TestComplementOfLargeDeterministic(t *testing.T) {
 	chains := api.Alphabet{Ranks: []int{0, 1}}
-	a := cycle(300)
+	a := sample.Counter(300)
 	for range 2 {
 		c, e := deter.Complement(chains, a)
 		if e == api.ErrFull {

@@ -26,19 +26,6 @@ func filled(al api.Alphabet, a api.Automaton) api.Automaton {
 	return b
 }
 
-// deterministicPart returns a without the rules that follow another one with
-// the same symbol and From.
-func deterministicPart(a api.Automaton) api.Automaton {
-	b := api.Automaton{States: a.States, Final: a.Final}
-	for _, r := range a.Rules {
-		more := append(slices.Clone(b.Rules), r)
-		if sample.Deterministic(api.Automaton{States: a.States, Rules: more}) {
-			b.Rules = more
-		}
-	}
-	return b
-}
-
 // P4.2, P4.5, P4.6
 func TestFill(t *testing.T) {
 	for _, al := range sample.Alphabets() {
@@ -47,7 +34,7 @@ func TestFill(t *testing.T) {
 			b, e := deter.Fill(al, a)
 			if !sample.Deterministic(a) {
 				checkRefused(t, "Fill", b, e, api.ErrKind)
-				a = deterministicPart(a)
+				a = sample.DeterministicPart(a)
 				b, e = deter.Fill(al, a)
 			}
 			checkAutomaton(t, "Fill", b, e, filled(al, a))
@@ -66,7 +53,7 @@ func TestFillAlmostComplete(t *testing.T) {
 			if fullNumber(al, states) > 0 && states == 0 {
 				states = 1
 			}
-			a = full(al, states)
+			a = sample.Full(al, states)
 			slices.Reverse(a.Rules)
 			b, e := deter.Fill(al, a)
 			checkAutomaton(t, "complete", b, e, a)
@@ -107,14 +94,14 @@ func TestFillLimits(t *testing.T) {
 		a     api.Automaton
 		want  api.Errno
 	}{
-		{"300 states", []int{0, 1}, cycle(299), api.OK},
-		{"301 states", []int{0, 1}, cycle(300), api.ErrFull},
+		{"300 states", []int{0, 1}, sample.Counter(299), api.OK},
+		{"301 states", []int{0, 1}, sample.Counter(300), api.ErrFull},
 		{"301 states and no rules", []int{0}, api.Automaton{States: 300}, api.ErrFull},
-		{"300 states, complete", []int{0, 1}, full(api.Alphabet{Ranks: []int{0, 1}}, 300), api.OK},
+		{"300 states, complete", []int{0, 1}, sample.Full(api.Alphabet{Ranks: []int{0, 1}}, 300), api.OK},
 		{"300 states, no symbols", nil, api.Automaton{States: 300, Final: []int{7}}, api.OK},
 		{"20000 rules", []int{2, 2}, api.Automaton{States: 99}, api.OK},
 		{"20001 rules", []int{2, 0, 2}, api.Automaton{States: 99}, api.ErrFull},
-		{"20001 rules, one missing", []int{2, 0, 2}, full(api.Alphabet{Ranks: []int{2, 0, 2}}, 99), api.OK},
+		{"20001 rules, one missing", []int{2, 0, 2}, sample.Full(api.Alphabet{Ranks: []int{2, 0, 2}}, 99), api.OK},
 		{"19882 rules", []int{0, 2}, api.Automaton{States: 140}, api.OK},
 		{"20165 rules", []int{0, 2}, api.Automaton{States: 141}, api.ErrFull},
 		{"19683 rules", []int{3}, api.Automaton{States: 26}, api.OK},

@@ -18,25 +18,6 @@ func withB() api.Automaton {
 	}}
 }
 
-// allSets returns an automaton of n states from 0 for which each set of states
-// except for the empty one belongs to some tree. The alphabet needs a symbol 0
-// of rank 0, and then four of rank 1: they turn all states by one, exchange 0
-// and 1, add 1 beside 0, and forget 0. All states are useful.
-func allSets(n int) api.Automaton {
-	a := api.Automaton{States: n, Final: []int{0}, Rules: []api.Rule{sample.Rule(0, 0), sample.Rule(3, 1, 0)}}
-	for state := range n {
-		other := state
-		if state < 2 && n > 1 {
-			other = 1 - state
-		}
-		a.Rules = append(a.Rules, sample.Rule(1, (state+1)%n, state), sample.Rule(2, other, state), sample.Rule(3, state, state))
-		if state > 0 {
-			a.Rules = append(a.Rules, sample.Rule(4, state, state))
-		}
-	}
-	return a
-}
-
 // union adds rules to a by which a symbol stands for the union of the sets of
 // its subtrees.
 func union(a api.Automaton, sym, rank int) api.Automaton {
@@ -44,16 +25,6 @@ func union(a api.Automaton, sym, rank int) api.Automaton {
 		for _, state := range from {
 			a.Rules = append(a.Rules, sample.Rule(sym, state, from...))
 		}
-	}
-	return a
-}
-
-// cycle returns a deterministic automaton over a (rank 0) and g (rank 1) that
-// counts the nodes of a tree up to a number of states.
-func cycle(states int) api.Automaton {
-	a := api.Automaton{States: states, Final: []int{states - 1}, Rules: []api.Rule{sample.Rule(0, 0)}}
-	for state := range states - 1 {
-		a.Rules = append(a.Rules, sample.Rule(1, state+1, state))
 	}
 	return a
 }
@@ -109,14 +80,4 @@ func checkLanguage(t *testing.T, what string, trees []api.Tree, a, b api.Automat
 			return
 		}
 	}
-}
-
-// randomTrees returns trees over al.
-func randomTrees(al api.Alphabet, number, nodes int) []api.Tree {
-	var s sample.Source
-	var list []api.Tree
-	for range number {
-		list = append(list, sample.RandomTree(&s, al, 1+s.Below(nodes)))
-	}
-	return list
 }

@@ -30,7 +30,7 @@ func callAll(al api.Alphabet, a api.Automaton) []result {
 // with an error they are zero.
 func TestAnyArguments(t *testing.T) {
 	for _, al := range append(sample.BadAlphabets(), api.Alphabet{}, withBAlphabet, api.Alphabet{Ranks: []int{0, 1, 2, 3}}) {
-		for _, a := range slices.Concat(sample.BadAutomata(withBAlphabet), sample.Automata(withBAlphabet)[:20], []api.Automaton{{}, withB(), allSets(300), cycle(300)}) {
+		for _, a := range slices.Concat(sample.BadAutomata(withBAlphabet), sample.Automata(withBAlphabet)[:20], []api.Automaton{{}, withB(), sample.AllSets(300), sample.Counter(300)}) {
 			results := callAll(al, a)
 			if !reflect.DeepEqual(results, callAll(al, a)) {
 				t.Errorf("%v, %s: equal calls have different results", al, sample.Show(a))
@@ -63,7 +63,7 @@ func TestResultsAreTheSame(t *testing.T) {
 // are not changed.
 func TestNoSharing(t *testing.T) {
 	al := api.Alphabet{Ranks: []int{0, 0, 1, 2}}
-	for i, a := range append(sample.Automata(al), full(al, 2), full(al, 3)) {
+	for i, a := range append(sample.Automata(al), sample.Full(al, 2), sample.Full(al, 3)) {
 		before := sample.Copy(a)
 		all := []api.Automaton{a}
 		for _, r := range append(callAll(al, a), callAll(al, a)...) {

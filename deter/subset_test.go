@@ -154,7 +154,7 @@ func orderOfRules(a, b api.Rule) int {
 // chainOfSets has n sets: one for each state of a chain, and one more for the
 // first state together with the last one.
 func chainOfSets(n int) api.Automaton {
-	a := cycle(n - 1)
+	a := sample.Counter(n - 1)
 	a.Rules = append(a.Rules, sample.Rule(2, 0), sample.Rule(2, n-2))
 	return a
 }
@@ -173,7 +173,7 @@ func TestSubsetMaxStates(t *testing.T) {
 		t.Errorf("301 sets: %d sets", len(sets))
 	}
 	for _, states := range []int{9, 20, 300} {
-		b, sets, e = deter.Subset(api.Alphabet{Ranks: []int{0, 1, 1, 1, 1}}, allSets(states))
+		b, sets, e = deter.Subset(api.Alphabet{Ranks: []int{0, 1, 1, 1, 1}}, sample.AllSets(states))
 		checkRefused(t, "all sets", b, e, api.ErrFull)
 		if len(sets) > 0 {
 			t.Errorf("all sets: %d sets", len(sets))

@@ -179,6 +179,19 @@ func Deterministic(a api.Automaton) bool {
 	return true
 }
 
+// DeterministicPart returns a without the rules that follow another one with
+// the same symbol and From.
+func DeterministicPart(a api.Automaton) api.Automaton {
+	b := api.Automaton{States: a.States, Final: a.Final}
+	for _, r := range a.Rules {
+		more := append(slices.Clone(b.Rules), r)
+		if Deterministic(api.Automaton{States: a.States, Rules: more}) {
+			b.Rules = more
+		}
+	}
+	return b
+}
+
 // Lists returns all lists of n numbers below limit, in lexicographic order.
 func Lists(n, limit int) [][]int {
 	all := [][]int{{}}
