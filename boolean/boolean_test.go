@@ -78,9 +78,9 @@ func minusAtTheLimit() []over {
 		{sets, sample.Counter(2), sample.AllSets(7)},
 		{sets, api.Automaton{States: 1, Final: []int{0}, Rules: []api.Rule{sample.Rule(0, 0), sample.Rule(1, 0, 0), sample.Rule(3, 0, 0)}}, sample.AllSets(8)},
 		// 300 states together, of deterministic automata.
-		{chains, modulo(1, 2), modulo(2, 149)},
-		{chains, modulo(1, 75), modulo(2, 3)},
-		{chains, modulo(1, 1), modulo(2, 299)},
+		{chains, sample.Modulo(1, 2), sample.Modulo(2, 149)},
+		{chains, sample.Modulo(1, 75), sample.Modulo(2, 3)},
+		{chains, sample.Modulo(1, 1), sample.Modulo(2, 299)},
 		{chains, second, sample.Counter(149)},
 		{chains, twice, api.Automaton{States: 1, Final: []int{0}, Rules: []api.Rule{sample.Rule(0, 0)}}},
 	}
@@ -99,7 +99,7 @@ func TestMinusAtTheLimit(t *testing.T) {
 	}
 	// With rules of rank 2: 2 rules, and 99^2 + 1 that are full.
 	al := api.Alphabet{Ranks: []int{0, 2}}
-	for _, a := range []api.Automaton{everything(al), {States: 3, Final: []int{2}, Rules: []api.Rule{sample.Rule(0, 0), sample.Rule(1, 2, 0, 0)}}} {
+	for _, a := range []api.Automaton{sample.Everything(al), {States: 3, Final: []int{2}, Rules: []api.Rule{sample.Rule(0, 0), sample.Rule(1, 2, 0, 0)}}} {
 		b := sample.Full(al, 98)
 		c, e := boolean.Minus(al, a, b)
 		checkLanguage(t, "many rules", al, c, e, sample.RandomTrees(al, 40, 40), func(x api.Tree) bool { return sample.Accepts(a, x) && !sample.Accepts(b, x) })
@@ -113,9 +113,9 @@ func TestMinusBeyondTheLimit(t *testing.T) {
 		{sets, sample.Counter(18), sample.AllSets(4)},
 		{sets, sample.AllSets(20), sample.AllSets(7)},
 		{sets, sample.AllSets(2), sample.AllSets(9)},
-		{chains, modulo(1, 43), modulo(2, 7)},
-		{chains, modulo(1, 300), modulo(1, 300)},
-		{chains, modulo(1, 300), modulo(2, 300)},
+		{chains, sample.Modulo(1, 43), sample.Modulo(2, 7)},
+		{chains, sample.Modulo(1, 300), sample.Modulo(1, 300)},
+		{chains, sample.Modulo(1, 300), sample.Modulo(2, 300)},
 	} {
 		inA, inB := acceptedBy(x.a), acceptedBy(x.b)
 		trees := append(sample.RandomTrees(x.al, 60, 60), sample.Chain(300, 1, 0), sample.Chain(43, 1, 0))
@@ -171,7 +171,7 @@ func TestLaws(t *testing.T) {
 		if a.States > 3 || b.States > 3 {
 			return
 		}
-		whole := everything(al)
+		whole := sample.Everything(al)
 		c, e := boolean.Minus(al, whole, a)
 		c, e = boolean.Minus(al, whole, must(t, c, e))
 		checkLanguage(t, "Minus twice", al, c, e, trees, acceptedBy(a))

@@ -11,26 +11,7 @@ import (
 // small has a (rank 0), b (rank 0), g (rank 1) and f (rank 2).
 var small = api.Alphabet{Ranks: []int{0, 0, 1, 2}}
 
-// everything accepts all trees over al.
-func everything(al api.Alphabet) api.Automaton {
-	a := api.Automaton{States: 1, Final: []int{0}}
-	for sym, rank := range al.Ranks {
-		a.Rules = append(a.Rules, sample.Rule(sym, 0, make([]int, rank)...))
-	}
-	return a
-}
-
-// modulo accepts the trees over a (rank 0), g and h (rank 1) in which the
-// number of nodes with the symbol sym, which is g or h, is n - 1 modulo n.
-func modulo(sym, n int) api.Automaton {
-	a := api.Automaton{States: n, Final: []int{n - 1}, Rules: []api.Rule{sample.Rule(0, 0)}}
-	for state := range n {
-		a.Rules = append(a.Rules, sample.Rule(sym, (state+1)%n, state), sample.Rule(3-sym, state, state))
-	}
-	return a
-}
-
-// chains is the alphabet of modulo.
+// chains is the alphabet of sample.Modulo.
 var chains = api.Alphabet{Ranks: []int{0, 1, 1}}
 
 // chain makes a tree over chains with the given numbers of g and h.
@@ -64,7 +45,7 @@ func manyRules(states, rules int) api.Automaton {
 func forPairs(f func(al api.Alphabet, trees []api.Tree, a, b api.Automaton)) {
 	for _, al := range sample.Alphabets() {
 		trees := sample.Trees(al)
-		automata := append(sample.Automata(al), api.Automaton{}, api.Automaton{States: 3, Final: []int{0, 1, 2}}, everything(al))
+		automata := append(sample.Automata(al), api.Automaton{}, api.Automaton{States: 3, Final: []int{0, 1, 2}}, sample.Everything(al))
 		for i, a := range automata {
 			f(al, trees, a, automata[(i*37+11)%len(automata)])
 			f(al, trees, a, automata[(i+len(automata)/2)%len(automata)])

@@ -62,7 +62,7 @@ func TestMeetLarger(t *testing.T) {
 func TestMeetAtTheLimit(t *testing.T) {
 	for _, numbers := range [][]int{{300, 1}, {1, 300}, {20, 15}, {17, 17}, {2, 150}, {150, 2}, {100, 3}} {
 		g, h := numbers[0], numbers[1]
-		c, e := boolean.Meet(chains, modulo(1, g), modulo(2, h))
+		c, e := boolean.Meet(chains, sample.Modulo(1, g), sample.Modulo(2, h))
 		checkLanguage(t, "states", chains, c, e, []api.Tree{chain(g-1, h-1)}, func(api.Tree) bool { return true })
 		if c.States != g*h {
 			t.Errorf("modulo %d and %d: %d states", g, h, c.States)
@@ -117,7 +117,7 @@ func TestMeetOfIdenticalRules(t *testing.T) {
 func TestMeetBeyondTheLimit(t *testing.T) {
 	for _, numbers := range [][]int{{7, 43}, {43, 7}, {300, 300}, {301 - 1, 2}, {16, 19}} {
 		g, h := numbers[0], numbers[1]
-		a, b := modulo(1, g), modulo(2, h)
+		a, b := sample.Modulo(1, g), sample.Modulo(2, h)
 		c, e := boolean.Meet(chains, a, b)
 		checkLanguageOrFull(t, "states", chains, c, e, []api.Tree{chain(0, 0), chain(6, 42), chain(42, 6), chain(15, 18)}, both(a, b))
 	}

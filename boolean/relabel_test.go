@@ -67,7 +67,7 @@ func TestRelabel(t *testing.T) {
 				origins[len(trees)-1] = r.origins(x)
 			}
 		}
-		for i, a := range append(sample.Automata(r.al), everything(r.al)) {
+		for i, a := range append(sample.Automata(r.al), sample.Everything(r.al)) {
 			b, e := boolean.Relabel(r.al, r.to, r.symbols, a)
 			checkLanguage(t, "Relabel", r.to, b, e, nil, nil)
 			for j := i % 2; j < len(trees); j += 2 {
@@ -83,7 +83,7 @@ func TestRelabel(t *testing.T) {
 func TestUnlabel(t *testing.T) {
 	for _, r := range relabelings() {
 		trees := sample.Trees(r.al)
-		for _, a := range append(sample.Automata(r.to), everything(r.to)) {
+		for _, a := range append(sample.Automata(r.to), sample.Everything(r.to)) {
 			for _, a := range []api.Automaton{a, sample.DeterministicPart(a)} {
 				b, e := boolean.Unlabel(r.al, r.to, r.symbols, a)
 				checkLanguage(t, "Unlabel of "+sample.Show(a), r.al, b, e, trees, func(x api.Tree) bool { return sample.Accepts(a, renamed(r.symbols, x)) })

@@ -31,7 +31,7 @@ func callAll(al api.Alphabet, symbols []int, a, b api.Automaton, s int) []result
 // P1, P2: all arguments are accepted, equal calls have equal results, and with
 // an error they are zero.
 func TestAnyArguments(t *testing.T) {
-	automata := slices.Concat(sample.BadAutomata(small)[:20], sample.Automata(small)[:20], []api.Automaton{{}, sample.AllSets(300), sample.Counter(300), everything(small)})
+	automata := slices.Concat(sample.BadAutomata(small)[:20], sample.Automata(small)[:20], []api.Automaton{{}, sample.AllSets(300), sample.Counter(300), sample.Everything(small)})
 	symbols := [][]int{nil, {0}, {1, 0, 2, 3}, {-1, 4, 1 << 62, -1 << 63}}
 	for _, al := range append(sample.BadAlphabets(), api.Alphabet{}, small, api.Alphabet{Ranks: []int{0, 1, 1, 1, 1}}) {
 		for i, a := range automata {
@@ -71,7 +71,7 @@ func TestResultsAreTheSame(t *testing.T) {
 // are not changed.
 func TestNoSharing(t *testing.T) {
 	al, symbols := api.Alphabet{Ranks: []int{0, 1, 1, 2, 2}}, []int{0, 1, 1, 3, 3}
-	automata := append(sample.Automata(al), everything(al), sample.Full(al, 3))
+	automata := append(sample.Automata(al), sample.Everything(al), sample.Full(al, 3))
 	for i, a := range automata {
 		b := automata[len(automata)-1-i]
 		if i == len(automata)/2 {

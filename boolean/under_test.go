@@ -19,7 +19,7 @@ func under(a api.Automaton, s int) func(api.Tree) bool {
 func TestUnder(t *testing.T) {
 	for _, al := range sample.Alphabets() {
 		trees := sample.Trees(al)
-		for i, a := range append(sample.Automata(al), api.Automaton{}, everything(al), everything(al)) {
+		for i, a := range append(sample.Automata(al), api.Automaton{}, sample.Everything(al), sample.Everything(al)) {
 			for s := range al.Ranks {
 				if len(al.Ranks) > 2 && i < 90 && (i+s)%2 > 0 {
 					continue
@@ -35,7 +35,7 @@ func TestUnder(t *testing.T) {
 func TestUnderExample(t *testing.T) {
 	trees := sample.RandomTrees(small, 100, 20)
 	for s := range small.Ranks {
-		b, e := boolean.Under(small, everything(small), s)
+		b, e := boolean.Under(small, sample.Everything(small), s)
 		checkLanguage(t, "Under of all trees", small, b, e, trees, func(x api.Tree) bool {
 			return has(x, func(y api.Tree) bool { return y.Sym == s })
 		})
@@ -101,7 +101,7 @@ func TestUnderBeyondTheLimit(t *testing.T) {
 func TestUnderErrors(t *testing.T) {
 	for _, al := range sample.Alphabets() {
 		for _, s := range []int{-1, -1 << 63, len(al.Ranks), 12, 1<<63 - 1} {
-			for _, a := range []api.Automaton{{}, everything(al), {States: 300}} {
+			for _, a := range []api.Automaton{{}, sample.Everything(al), {States: 300}} {
 				b, e := boolean.Under(al, a, s)
 				checkRefused(t, "Under", b, e, api.ErrRange)
 			}

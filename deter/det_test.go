@@ -33,33 +33,13 @@ func TestDetAndComplement(t *testing.T) {
 
 // P4.1, P4.3: the chapter's example.
 func TestDetExample(t *testing.T) {
-	checkBoth(t, withBAlphabet, withB(), sample.RandomTrees(withBAlphabet, 50, 60))
-}
-
-// over is an automaton with its alphabet.
-type over struct {
-	al api.Alphabet
-	a  api.Automaton
-}
-
-// largest returns automata with so many states that all sets of them, and one
-// more, still fit into an automaton.
-func largest() []over {
-	threes := sample.AllSets(4)
-	for sym := 5; sym < 9; sym++ {
-		threes = union(threes, sym, 3)
-	}
-	return []over{
-		{api.Alphabet{Ranks: []int{0, 1, 1, 1, 1}}, sample.AllSets(8)},
-		{api.Alphabet{Ranks: []int{0, 1, 1, 1, 1, 2}}, union(sample.AllSets(7), 5, 2)},
-		{api.Alphabet{Ranks: []int{0, 1, 1, 1, 1, 3, 3, 3, 3}}, threes},
-	}
+	checkBoth(t, withBAlphabet, sample.WithB().A, sample.RandomTrees(withBAlphabet, 50, 60))
 }
 
 // P4.1, P4.3: no ErrFull as long as all sets fit.
 func TestDetAndComplementAtTheLimit(t *testing.T) {
-	for _, x := range largest() {
-		checkBoth(t, x.al, x.a, sample.RandomTrees(x.al, 40, 30))
+	for _, x := range sample.Largest() {
+		checkBoth(t, x.Al, x.A, sample.RandomTrees(x.Al, 40, 30))
 	}
 }
 
@@ -86,7 +66,7 @@ func TestDetAndComplementBeyondTheLimit(t *testing.T) {
 	for _, states := range []int{8, 9, 20, 300} {
 		a := sample.AllSets(states)
 		if states < 20 {
-			a = union(a, 5, 2)
+			a = sample.Unite(a, 5, 2)
 		}
 		b, e := deter.Det(al, a)
 		if e == api.ErrFull {

@@ -7,27 +7,8 @@ import (
 	"testing"
 )
 
-// withB is the automaton of the chapter's example: the trees over a, b (rank 0)
-// and f (rank 2) with some leaf b.
-var withBAlphabet = api.Alphabet{Ranks: []int{0, 0, 2}}
-
-func withB() api.Automaton {
-	return api.Automaton{States: 2, Final: []int{1}, Rules: []api.Rule{
-		sample.Rule(0, 0), sample.Rule(1, 0), sample.Rule(1, 1),
-		sample.Rule(2, 0, 0, 0), sample.Rule(2, 1, 1, 0), sample.Rule(2, 1, 0, 1),
-	}}
-}
-
-// union adds rules to a by which a symbol stands for the union of the sets of
-// its subtrees.
-func union(a api.Automaton, sym, rank int) api.Automaton {
-	for _, from := range sample.Lists(rank, a.States) {
-		for _, state := range from {
-			a.Rules = append(a.Rules, sample.Rule(sym, state, from...))
-		}
-	}
-	return a
-}
+// withBAlphabet is the alphabet of the chapter's example.
+var withBAlphabet = sample.WithB().Al
 
 // checkAutomaton checks a result and its error.
 func checkAutomaton(t *testing.T, what string, got api.Automaton, e api.Errno, want api.Automaton) {

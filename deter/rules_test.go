@@ -30,7 +30,7 @@ func callAll(al api.Alphabet, a api.Automaton) []result {
 // with an error they are zero.
 func TestAnyArguments(t *testing.T) {
 	for _, al := range append(sample.BadAlphabets(), api.Alphabet{}, withBAlphabet, api.Alphabet{Ranks: []int{0, 1, 2, 3}}) {
-		for _, a := range slices.Concat(sample.BadAutomata(withBAlphabet), sample.Automata(withBAlphabet)[:20], []api.Automaton{{}, withB(), sample.AllSets(300), sample.Counter(300)}) {
+		for _, a := range slices.Concat(sample.BadAutomata(withBAlphabet), sample.Automata(withBAlphabet)[:20], []api.Automaton{{}, sample.WithB().A, sample.AllSets(300), sample.Counter(300)}) {
 			results := callAll(al, a)
 			if !reflect.DeepEqual(results, callAll(al, a)) {
 				t.Errorf("%v, %s: equal calls have different results", al, sample.Show(a))

@@ -86,7 +86,7 @@ func checkSets(t *testing.T, a, b api.Automaton, sets [][]int, trees []api.Tree)
 
 // P4.4: the chapter's example.
 func TestSubsetExample(t *testing.T) {
-	b, sets, e := deter.Subset(withBAlphabet, withB())
+	b, sets, e := deter.Subset(withBAlphabet, sample.WithB().A)
 	checkAutomaton(t, "example", b, e, api.Automaton{States: 2, Final: []int{1}, Rules: []api.Rule{
 		sample.Rule(0, 0), sample.Rule(1, 1), sample.Rule(2, 0, 0, 0), sample.Rule(2, 1, 0, 1), sample.Rule(2, 1, 1, 0), sample.Rule(2, 1, 1, 1),
 	}})
@@ -134,11 +134,11 @@ func TestSubsetLarger(t *testing.T) {
 
 // P4.4: the sets of all kinds are found.
 func TestSubsetAllSets(t *testing.T) {
-	for _, x := range largest() {
-		name := sample.Show(x.a)
-		b, sets, e := deter.Subset(x.al, x.a)
-		checkDeterministic(t, name, x.al, b, e)
-		if number := 1<<x.a.States - 1; b.States != number || len(sets) != number {
+	for _, x := range sample.Largest() {
+		name := sample.Show(x.A)
+		b, sets, e := deter.Subset(x.Al, x.A)
+		checkDeterministic(t, name, x.Al, b, e)
+		if number := 1<<x.A.States - 1; b.States != number || len(sets) != number {
 			t.Errorf("%s: %d states and %d sets instead of %d", name, b.States, len(sets), number)
 		}
 		if len(b.Rules) > 0 && !slices.IsSortedFunc(b.Rules, orderOfRules) {

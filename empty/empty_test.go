@@ -115,7 +115,7 @@ func TestLargeSizes(t *testing.T) {
 				want[state] = min(want[state], api.MaxCount-want[state-1]) + want[state-1]
 			}
 		}
-		a := power(rank, 300)
+		a := sample.Power(rank, 300)
 		sizes, e := empty.Sizes(all, a)
 		if e != api.OK || !slices.Equal(sizes, want) {
 			t.Errorf("rank %d: Sizes %v, error %d", rank, sizes, e)
@@ -127,7 +127,7 @@ func TestLargeSizes(t *testing.T) {
 		}
 		slices.Reverse(want)
 		for levels := 1; levels <= 300; levels++ {
-			got, e := empty.Longest(all, power(rank, levels))
+			got, e := empty.Longest(all, sample.Power(rank, levels))
 			checkNumber(t, "Longest", got, e, want[levels-1], api.OK)
 		}
 	}
@@ -135,7 +135,7 @@ func TestLargeSizes(t *testing.T) {
 
 // P6.2, P6.6: one below MaxCount, MaxCount, and more.
 func TestSizesAroundMaxCount(t *testing.T) {
-	a := power(2, 66)
+	a := sample.Power(2, 66)
 	// The state 61 has the size 2^62 - 1.
 	a.Rules = append(a.Rules, sample.Rule(1, 63, 61), sample.Rule(1, 64, 60), sample.Rule(2, 65, 0, 61))
 	a.Rules = slices.DeleteFunc(a.Rules, func(r api.Rule) bool { return r.Sym == 2 && r.To > 62 && r.From[0] > 0 })

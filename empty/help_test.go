@@ -21,17 +21,6 @@ func example() api.Automaton {
 // all has each rank.
 var all = api.Alphabet{Ranks: []int{0, 1, 2, 3}}
 
-// power makes an automaton over all that accepts one tree: a full tree with the
-// given number of levels, in which each node but the leaves has as many
-// subtrees as the rank.
-func power(rank, levels int) api.Automaton {
-	a := api.Automaton{States: levels, Final: []int{levels - 1}, Rules: []api.Rule{sample.Rule(0, 0)}}
-	for state := range levels - 1 {
-		a.Rules = append(a.Rules, sample.Rule(rank, state+1, slices.Repeat([]int{state}, rank)...))
-	}
-	return a
-}
-
 // reversed exchanges the states of a, and the order of its rules.
 func reversed(a api.Automaton) api.Automaton {
 	b := api.Automaton{States: a.States}

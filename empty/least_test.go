@@ -121,12 +121,12 @@ func TestLeastDecides(t *testing.T) {
 // P6.3: least trees with MaxSize nodes, and more.
 func TestLeastLimits(t *testing.T) {
 	for levels := 1; levels <= 300; levels++ {
-		got, e := empty.Least(all, power(1, levels))
+		got, e := empty.Least(all, sample.Power(1, levels))
 		checkTree(t, "chain", got, e, sample.Chain(levels, 1, 0))
 	}
 	two := sample.Tree(0)
 	for levels := 1; levels <= 70; levels++ {
-		got, e := empty.Least(all, reversed(power(2, levels)))
+		got, e := empty.Least(all, reversed(sample.Power(2, levels)))
 		if levels > 8 {
 			checkNoTree(t, "rank 2", got, e, api.ErrFull)
 			continue
@@ -134,9 +134,9 @@ func TestLeastLimits(t *testing.T) {
 		checkTree(t, "rank 2", got, e, two)
 		two = sample.Tree(2, two, two)
 	}
-	got, e := empty.Least(all, power(3, 300))
+	got, e := empty.Least(all, sample.Power(3, 300))
 	checkNoTree(t, "rank 3", got, e, api.ErrFull)
-	a := power(1, 300)
+	a := sample.Power(1, 300)
 	a.Rules = append(a.Rules, sample.Rule(2, 298, 100, 199))
 	got, e = empty.LeastOf(all, a, 298)
 	checkTree(t, "299 nodes", got, e, sample.Chain(299, 1, 0))
@@ -156,7 +156,7 @@ func TestLeastLimits(t *testing.T) {
 // P6.3: a small tree beside states with very large ones, whose sizes cannot be
 // told apart.
 func TestLeastBesideLargeTrees(t *testing.T) {
-	a := power(2, 300)
+	a := sample.Power(2, 300)
 	a.Rules = append(a.Rules, sample.Rule(1, 250, 250))
 	for _, final := range [][]int{{2, 299}, {2, 250}, {2, 3, 60, 70, 80, 250, 251}} {
 		a.Final = final
@@ -197,7 +197,7 @@ func TestLeastErrors(t *testing.T) {
 	}
 	x, e := empty.LeastOf(exampleAlphabet, api.Automaton{States: 1}, 0)
 	checkNoTree(t, "no tree", x, e, api.ErrNone)
-	x, e = empty.LeastOf(all, power(3, 300), 300)
+	x, e = empty.LeastOf(all, sample.Power(3, 300), 300)
 	checkNoTree(t, "out of range", x, e, api.ErrRange)
 	x, e = empty.Least(exampleAlphabet, api.Automaton{})
 	checkNoTree(t, "no states", x, e, api.ErrNone)

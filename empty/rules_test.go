@@ -54,7 +54,7 @@ func callAll(t *testing.T, al api.Alphabet, a api.Automaton) outcome {
 
 // P1, P2: all arguments are accepted, and equal calls have equal results.
 func TestAnyArguments(t *testing.T) {
-	automata := slices.Concat(sample.BadAutomata(all), sample.Automata(all), []api.Automaton{{}, example(), power(3, 300), power(1, 300), sample.Counter(300), sample.AllSets(300), sample.Full(all, 26)})
+	automata := slices.Concat(sample.BadAutomata(all), sample.Automata(all), []api.Automaton{{}, example(), sample.Power(3, 300), sample.Power(1, 300), sample.Counter(300), sample.AllSets(300), sample.Full(all, 26)})
 	for _, al := range append(sample.BadAlphabets(), api.Alphabet{}, all, exampleAlphabet, api.Alphabet{Ranks: []int{0, 1, 1, 1, 1}}) {
 		for _, a := range automata {
 			if !reflect.DeepEqual(callAll(t, al, a), callAll(t, al, a)) {
@@ -67,7 +67,7 @@ func TestAnyArguments(t *testing.T) {
 // P2: results share no memory with each other, no two parts of a tree share
 // memory, and arguments are not changed.
 func TestNoSharing(t *testing.T) {
-	for i, a := range append(sample.Automata(all), power(2, 8), power(3, 5)) {
+	for i, a := range append(sample.Automata(all), sample.Power(2, 8), sample.Power(3, 5)) {
 		before := sample.Copy(a)
 		var trees []api.Tree
 		for range 2 {
@@ -75,11 +75,8 @@ func TestNoSharing(t *testing.T) {
 			y, _ := empty.LeastOf(all, a, 0)
 			trees = append(trees, x, y)
 		}
-		seen := map[*api.Tree]bool{}
-		for _, x := range trees {
-			if shares(x, seen) {
-				t.Errorf("automaton %d: memory is shared", i)
-			}
+		if sample.ShareTrees(trees...) {
+			t.Errorf("automaton %d: memory is shared", i)
 		}
 		callAll(t, all, a)
 		if !sample.Equal(a, before) {
@@ -88,25 +85,10 @@ func TestNoSharing(t *testing.T) {
 	}
 }
 
-// shares reports whether a list of subtrees in x was seen before, up to its
-// capacity.
-func shares(x api.Tree, seen map[*api.Tree]bool) bool {
-	shared := false
-	kids := x.Kids[:cap(x.Kids)]
-	for i := range kids {
-		shared = shared || seen[&kids[i]]
-		seen[&kids[i]] = true
-	}
-	for _, kid := range x.Kids {
-		shared = shares(kid, seen) || shared
-	}
-	return shared
-}
-
 // P10: least trees are printed and parsed back.
 func TestRoundTrip(t *testing.T) {
 	names := []string{"a", "g", "f", "h"}
-	for _, a := range append(sample.Automata(all), power(1, 300), power(2, 8), power(3, 5)) {
+	for _, a := range append(sample.Automata(all), sample.Power(1, 300), sample.Power(2, 8), sample.Power(3, 5)) {
 		x, e := empty.Least(all, a)
 		if e == api.ErrNone {
 			continue

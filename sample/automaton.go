@@ -48,6 +48,23 @@ func Automata(al api.Alphabet) []api.Automaton {
 	return list
 }
 
+// WithB returns an automaton that accepts the trees over a, b (rank 0) and f
+// (rank 2) with some leaf b.
+func WithB() Over {
+	return Over{api.Alphabet{Ranks: []int{0, 0, 2}}, api.Automaton{States: 2, Final: []int{1}, Rules: []api.Rule{
+		Rule(0, 0), Rule(1, 0), Rule(1, 1), Rule(2, 0, 0, 0), Rule(2, 1, 1, 0), Rule(2, 1, 0, 1),
+	}}}
+}
+
+// Everything returns an automaton that accepts all trees over al.
+func Everything(al api.Alphabet) api.Automaton {
+	a := api.Automaton{States: 1, Final: []int{0}}
+	for sym, rank := range al.Ranks {
+		a.Rules = append(a.Rules, Rule(sym, 0, make([]int, rank)...))
+	}
+	return a
+}
+
 // BadAutomata returns automata that are not valid over al.
 func BadAutomata(al api.Alphabet) []api.Automaton {
 	bad := []api.Automaton{

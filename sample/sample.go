@@ -122,3 +122,25 @@ func RandomTree(s *Source, al api.Alphabet, n int) api.Tree {
 	}
 	return t
 }
+
+// ShareTrees reports whether two lists of subtrees in the trees share memory, up
+// to their capacities.
+func ShareTrees(trees ...api.Tree) bool {
+	seen := map[*api.Tree]bool{}
+	shared := false
+	var visit func(x api.Tree)
+	visit = func(x api.Tree) {
+		kids := x.Kids[:cap(x.Kids)]
+		for i := range kids {
+			shared = shared || seen[&kids[i]]
+			seen[&kids[i]] = true
+		}
+		for _, kid := range x.Kids {
+			visit(kid)
+		}
+	}
+	for _, x := range trees {
+		visit(x)
+	}
+	return shared
+}
