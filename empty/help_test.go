@@ -37,19 +37,6 @@ func reversed(a api.Automaton) api.Automaton {
 	return b
 }
 
-// acyclic makes a random automaton in which each state is only above lesser
-// ones.
-func acyclic(s *sample.Source, al api.Alphabet, states, rules int) api.Automaton {
-	a := sample.Automaton(s, al, states, rules)
-	for i, r := range a.Rules {
-		for pos := range r.From {
-			a.Rules[i].From[pos] = r.From[pos] % max(r.To, 1)
-		}
-	}
-	a.Rules = slices.DeleteFunc(a.Rules, func(r api.Rule) bool { return r.To == 0 && len(r.From) > 0 })
-	return a
-}
-
 // forAll calls f with alphabets and automata over them, many of which have a
 // finite language.
 func forAll(f func(al api.Alphabet, a api.Automaton)) {
@@ -57,7 +44,7 @@ func forAll(f func(al api.Alphabet, a api.Automaton)) {
 	for _, al := range sample.Alphabets() {
 		for _, a := range append(sample.Automata(al), api.Automaton{}, api.Automaton{States: 3, Final: []int{0, 1, 2}}) {
 			f(al, a)
-			f(al, acyclic(&s, al, a.States, len(a.Rules)))
+			f(al, sample.Acyclic(&s, al, a.States, len(a.Rules)))
 		}
 	}
 }

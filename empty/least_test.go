@@ -67,7 +67,7 @@ func TestLeastOfManyCandidates(t *testing.T) {
 	for _, ranks := range [][]int{{0, 0, 0, 1, 1, 2, 2}, {3, 0, 3, 0}, {2, 1, 0, 0, 2, 1}, {0, 0, 2, 3, 2, 3}} {
 		al := api.Alphabet{Ranks: ranks}
 		for range 60 {
-			a := acyclic(&s, al, 4+s.Below(4), 40+s.Below(40))
+			a := sample.Acyclic(&s, al, 4+s.Below(4), 40+s.Below(40))
 			leasts := leastBySize(a, 15)
 			for state := range a.States {
 				n := slices.IndexFunc(leasts, func(trees []*api.Tree) bool { return trees[state] != nil })

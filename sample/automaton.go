@@ -35,6 +35,19 @@ func Automaton(s *Source, al api.Alphabet, states, rules int) api.Automaton {
 	return a
 }
 
+// Acyclic makes a random automaton in which each state is only above lesser
+// ones.
+func Acyclic(s *Source, al api.Alphabet, states, rules int) api.Automaton {
+	a := Automaton(s, al, states, rules)
+	for i, r := range a.Rules {
+		for pos := range r.From {
+			a.Rules[i].From[pos] = r.From[pos] % max(r.To, 1)
+		}
+	}
+	a.Rules = slices.DeleteFunc(a.Rules, func(r api.Rule) bool { return r.To == 0 && len(r.From) > 0 })
+	return a
+}
+
 // Automata returns automata over al of many kinds: with 0 to 4 states, and with
 // few and many rules.
 func Automata(al api.Alphabet) []api.Automaton {
@@ -246,25 +259,13 @@ func Copy(a api.Automaton) api.Automaton {
 // Share reports whether two lists in the automata share memory, up to their
 // capacities.
 func Share(automata ...api.Automaton) bool {
-	numbers := map[*int]bool{}
-	rules := map[*api.Rule]bool{}
+	rules, numbers := map[*api.Rule]bool{}, map[*int]bool{}
 	shared := false
-	addNumbers := func(list []int) {
-		list = list[:cap(list)]
-		for i := range list {
-			shared = shared || numbers[&list[i]]
-			numbers[&list[i]] = true
-		}
-	}
 	for _, a := range automata {
-		addNumbers(a.Final)
-		all := a.Rules[:cap(a.Rules)]
-		for i := range all {
-			shared = shared || rules[&all[i]]
-			rules[&all[i]] = true
-		}
+		shared = addNew(numbers, a.Final) || shared
+		shared = addNew(rules, a.Rules) || shared
 		for _, r := range a.Rules {
-			addNumbers(r.From)
+			shared = addNew(numbers, r.From) || shared
 		}
 	}
 	return shared

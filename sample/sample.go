@@ -126,21 +126,29 @@ func RandomTree(s *Source, al api.Alphabet, n int) api.Tree {
 // ShareTrees reports whether two lists of subtrees in the trees share memory, up
 // to their capacities.
 func ShareTrees(trees ...api.Tree) bool {
-	seen := map[*api.Tree]bool{}
+	known := map[*api.Tree]bool{}
 	shared := false
 	var visit func(x api.Tree)
 	visit = func(x api.Tree) {
-		kids := x.Kids[:cap(x.Kids)]
-		for i := range kids {
-			shared = shared || seen[&kids[i]]
-			seen[&kids[i]] = true
-		}
+		shared = addNew(known, x.Kids) || shared
 		for _, kid := range x.Kids {
 			visit(kid)
 		}
 	}
 	for _, x := range trees {
 		visit(x)
+	}
+	return shared
+}
+
+// addNew adds the elements of a list, up to its capacity, to those that are
+// known. It reports whether one of them was known before.
+func addNew[T any](known map[*T]bool, list []T) bool {
+	list = list[:cap(list)]
+	shared := false
+	for i := range list {
+		shared = shared || known[&list[i]]
+		known[&list[i]] = true
 	}
 	return shared
 }
