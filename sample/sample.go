@@ -126,16 +126,23 @@ func RandomTree(s *Source, al api.Alphabet, n int) api.Tree {
 // ShareTrees reports whether two lists of subtrees in the trees share memory, up
 // to their capacities.
 func ShareTrees(trees ...api.Tree) bool {
-	known := map[*api.Tree]bool{}
+	return share(trees, func(x api.Tree) []api.Tree { return x.Kids })
+}
+
+// share reports whether two lists of parts in some things share memory, up to
+// their capacities.
+func share[T any](things []T, partsOf func(T) []T) bool {
+	known := map[*T]bool{}
 	shared := false
-	var visit func(x api.Tree)
-	visit = func(x api.Tree) {
-		shared = addNew(known, x.Kids) || shared
-		for _, kid := range x.Kids {
-			visit(kid)
+	var visit func(x T)
+	visit = func(x T) {
+		parts := partsOf(x)
+		shared = addNew(known, parts) || shared
+		for _, part := range parts {
+			visit(part)
 		}
 	}
-	for _, x := range trees {
+	for _, x := range things {
 		visit(x)
 	}
 	return shared
