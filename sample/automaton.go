@@ -262,10 +262,10 @@ func Share(automata ...api.Automaton) bool {
 	rules, numbers := map[*api.Rule]bool{}, map[*int]bool{}
 	shared := false
 	for _, a := range automata {
-		shared = addNew(numbers, a.Final) || shared
-		shared = addNew(rules, a.Rules) || shared
+		shared = AddNew(numbers, a.Final) || shared
+		shared = AddNew(rules, a.Rules) || shared
 		for _, r := range a.Rules {
-			shared = addNew(numbers, r.From) || shared
+			shared = AddNew(numbers, r.From) || shared
 		}
 	}
 	return shared

@@ -137,7 +137,7 @@ func share[T any](things []T, partsOf func(T) []T) bool {
 	var visit func(x T)
 	visit = func(x T) {
 		parts := partsOf(x)
-		shared = addNew(known, parts) || shared
+		shared = AddNew(known, parts) || shared
 		for _, part := range parts {
 			visit(part)
 		}
@@ -148,9 +148,9 @@ func share[T any](things []T, partsOf func(T) []T) bool {
 	return shared
 }
 
-// addNew adds the elements of a list, up to its capacity, to those that are
+// AddNew adds the elements of a list, up to its capacity, to those that are
 // known. It reports whether one of them was known before.
-func addNew[T any](known map[*T]bool, list []T) bool {
+func AddNew[T any](known map[*T]bool, list []T) bool {
 	list = list[:cap(list)]
 	shared := false
 	for i := range list {

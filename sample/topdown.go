@@ -170,11 +170,11 @@ func ShareTopdowns(automata ...api.Topdown) bool {
 	rows, lists, numbers := map[*[][]int]bool{}, map[*[]int]bool{}, map[*int]bool{}
 	shared := false
 	for _, d := range automata {
-		shared = addNew(rows, d.Next) || shared
+		shared = AddNew(rows, d.Next) || shared
 		for _, row := range d.Next {
-			shared = addNew(lists, row) || shared
+			shared = AddNew(lists, row) || shared
 			for _, kids := range row {
-				shared = addNew(numbers, kids) || shared
+				shared = AddNew(numbers, kids) || shared
 			}
 		}
 	}
