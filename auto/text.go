@@ -2,6 +2,7 @@ package auto
 
 import (
 	"boskage/api"
+	"boskage/scan"
 	"boskage/tree"
 	"slices"
 	"strconv"
@@ -30,11 +31,7 @@ func Print(al api.Alphabet, a api.Automaton) (string, api.Errno) {
 
 // writeLine appends a line that consists of a word and numbers.
 func writeLine(text *strings.Builder, word string, numbers ...int) {
-	text.WriteString(word)
-	for _, number := range numbers {
-		text.WriteByte(' ')
-		text.WriteString(strconv.Itoa(number))
-	}
+	text.WriteString(scan.Join(word, numbers...))
 	text.WriteByte('\n')
 }
 

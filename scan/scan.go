@@ -1,5 +1,5 @@
-// Package scan reads the texts that the layers print: names, single bytes
-// between them, and blanks.
+// Package scan reads the texts that the layers print: names and numbers, single
+// bytes between them, and blanks. It also writes numbers.
 package scan
 
 import (

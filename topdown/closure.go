@@ -6,6 +6,7 @@ import (
 	"boskage/bitset"
 	"boskage/boolean"
 	"boskage/empty"
+	"boskage/explore"
 )
 
 // Closure returns an automaton of the path closure of the language of a.
@@ -24,7 +25,7 @@ func Closure(al api.Alphabet, a api.Automaton) (api.Topdown, api.Errno) {
 	for _, r := range trimmed.Rules {
 		rules[r.Sym] = append(rules[r.Sym], r)
 	}
-	return explore(al, bitset.Of(trimmed.Final...), func(from bitset.Set, sym int) []bitset.Set {
+	return explore.Topdown(al, bitset.Of(trimmed.Final...), func(from bitset.Set, sym int) []bitset.Set {
 		return setsBelow(rules[sym], from)
 	})
 }

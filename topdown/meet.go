@@ -1,6 +1,9 @@
 package topdown
 
-import "boskage/api"
+import (
+	"boskage/api"
+	"boskage/explore"
+)
 
 // pair is a state of one automaton with a state of another one.
 type pair [2]int
@@ -18,7 +21,7 @@ func Meet(al api.Alphabet, d, e api.Topdown) (api.Topdown, api.Errno) {
 	if left.Start == nothing || right.Start == nothing {
 		return api.Topdown{Start: nothing}, api.OK
 	}
-	both, err := explore(al, pair{left.Start, right.Start}, func(from pair, sym int) []pair {
+	both, err := explore.Topdown(al, pair{left.Start, right.Start}, func(from pair, sym int) []pair {
 		return pairs(left.Next[from[0]][sym], right.Next[from[1]][sym])
 	})
 	if err != api.OK {

@@ -2,6 +2,7 @@ package topdown
 
 import (
 	"boskage/api"
+	"boskage/explore"
 	"slices"
 )
 
@@ -12,7 +13,7 @@ func Minimal(al api.Alphabet, d api.Topdown) (api.Topdown, api.Errno) {
 		return trimmed, e
 	}
 	class := classes(trimmed)
-	return explore(al, class[trimmed.Start], func(from, sym int) []int {
+	return explore.Topdown(al, class[trimmed.Start], func(from, sym int) []int {
 		kids := slices.Clone(trimmed.Next[slices.Index(class, from)][sym])
 		for i, state := range kids {
 			kids[i] = class[state]
